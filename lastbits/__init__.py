@@ -1,0 +1,1 @@
+"""Functions whose last bit is right: exact values, rounded once."""
