@@ -37,3 +37,15 @@ def grains_of(the_format, bits):
     place = max(exponent, 1) - BIASES[the_format] - fraction_bits
     grains = fraction << (place + GRAIN_PLACES)
     return grains if bits == size else -grains
+
+
+def rank_of(the_format, bits):
+    """How many steps from number to number lead up from 0 to the number with these bits;
+    below 0 if they lead down. Both zeros have rank 0."""
+    size = bits % sign_bit(the_format)
+    return size if bits == size else -size
+
+
+def bits_at(the_format, rank):
+    """The bits of the number with this rank: the exact 0 is +0."""
+    return rank if rank >= 0 else sign_bit(the_format) - rank

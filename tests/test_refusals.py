@@ -2,7 +2,7 @@
 
 import unittest
 
-from lastbits.functions import apply
+from lastbits.functions import apply, between
 
 MOST = 4294967295
 ONE = (0x3C00, 0x3F800000)
@@ -108,6 +108,45 @@ class Order(unittest.TestCase):
 
     def test_a_refusal_tells_nothing_else(self):
         self.assertEqual(apply(1, 0, 2, [ONE[1], ONE[1], 0]), [-3, 2])
+
+
+class Between(unittest.TestCase):
+    def test_format(self):
+        for the_format in (2, 3, 32, MOST):
+            self.assertEqual(between(the_format, []), [-1])
+            self.assertEqual(between(the_format, [0]), [-1])
+
+    def test_numbers(self):
+        for the_format in range(2):
+            self.assertEqual(between(the_format, [0] * 9), [-1])
+            self.assertEqual(between(the_format, [0] * 10), [-1])
+            self.assertEqual(len(between(the_format, [0] * 8)), 17)
+
+    def test_no_number_of_the_format(self):
+        for the_format in range(2):
+            for bits in NO_NUMBERS[the_format]:
+                self.assertEqual(between(the_format, [bits]), [-2, 0], hex(bits))
+
+    def test_first_place(self):
+        for the_format in range(2):
+            for bits in NO_NUMBERS[the_format]:
+                for place in range(8):
+                    row = [ONE[the_format]] * place + [bits] * (8 - place)
+                    self.assertEqual(between(the_format, row), [-2, place])
+                    alone = [MINUS_ONE[the_format]] * place + [bits] + [0] * (7 - place)
+                    self.assertEqual(between(the_format, alone), [-2, place])
+
+    def test_first_before_second(self):
+        self.assertEqual(between(2, [MOST]), [-1])
+        self.assertEqual(between(2, [0x7C00] * 9), [-1])
+        for the_format in range(2):
+            self.assertEqual(between(the_format, [NO_NUMBERS[the_format][0]] * 9), [-1])
+            self.assertEqual(between(the_format, [0] * 9 + [MOST]), [-1])
+
+    def test_no_third(self):
+        for the_format, sign in ((0, 0x8000), (1, 0x80000000)):
+            row = [0, sign, sign + 1, MINUS_ONE[the_format]]
+            self.assertEqual(between(the_format, row)[0], 0)
 
 
 if __name__ == "__main__":
